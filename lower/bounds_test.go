@@ -275,7 +275,7 @@ func TestBlocks(t *testing.T) {
 	}
 	u, _, _ := lower.Lower(read(t, in("let x = i(1); x = x * 2; m[x] = x; emit str(x); after x v(x); return; emit \"\";")))
 	for at, g := range append(u.Funcs, u.Events...) {
-		if isOne := len(g.Blocks) == 1; isOne != (at != 2 && at != 6 && at != 7) {
+		if isOne := len(g.Blocks) == 1; isOne != (at != 2 && at != 8 && at != 9) {
 			t.Errorf("%d blocks of function %d", len(g.Blocks), at)
 		}
 	}

@@ -21,6 +21,7 @@ fn i(a: int) -> int { emit str(a); return a; } fn s(a: text) -> text { emit a; r
 fn b(a: bool) -> bool { if a { emit "t"; } else { emit "f"; } return a; }
 fn p(a: int) -> P { emit str(a); return P{x: a, s: str(a), b: a > 0}; } fn z(a: int) { emit str(a); }
 fn four(a: int, c: int, d: int, e: int) -> int { return a * 1000 + c * 100 + d * 10 + e; }
+fn r(a: int) -> Q { return Q{d: a, b: a + 1, c: a + 2, a: a + 3}; } fn t(a: Q) -> int { return a.a * 1000 + a.b * 100 + a.c * 10 + a.d; }
 fn down(a: int) { if a > 0 { do down(a - 1); } } fn far(a: int) -> int { if a == 0 { return 0; } return 1 + far(a - 1); }
 on u() { } on v(a: int) { } on y(a: int, c: text, d: P, e: bool) { }
 `
